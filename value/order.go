@@ -52,7 +52,7 @@ func compareNumbers(a, b api.Value) int {
 	return -intToReal(b.Int, a.Real)
 }
 
-// intToReal is -1, if i is at most as great as f, else 1. It is the Real that is made a whole number, because an Int made a Real may be rounded: a Real within the range of Ints is cut at its point without loss, and what is left comes back as just that Real.
+// intToReal is -1, if i is at most as great as f, else 1. It is the Real that is made a whole number, because an Int made a Real may be rounded: what stands ahead of the point of a Real within the range of Ints is an Int exactly, and a Real exactly when it is made one again.
 func intToReal(i int64, f float64) int {
 	const beyond = 1 << 63
 	if f >= beyond {
