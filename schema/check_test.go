@@ -96,9 +96,8 @@ func TestP15_1EveryType(t *testing.T) {
 // TestP15_1EveryTwo: any two names of 256 that are the same, wherever they stand, whatever else the columns are.
 func TestP15_1EveryTwo(t *testing.T) {
 	for _, l := range [][]api.Column{some(9, 4), some(256, 4)} {
-		step := 1 + len(l)/40
 		for i := range l {
-			for j := i % step; j < i; j += step {
+			for j := range i {
 				twice := slices.Clone(l)
 				twice[i].Name = twice[j].Name
 				mustCheck(t, twice, api.ErrSchema)

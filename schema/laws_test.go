@@ -83,15 +83,13 @@ func TestP15_5Unlike(t *testing.T) {
 	}
 }
 
-// TestP15_5Beginnings: no form is the beginning of another.
+// TestP15_5Beginnings: no form cut short, at whatever place, is a form.
 func TestP15_5Beginnings(t *testing.T) {
 	for _, l := range goodLists() {
 		b := putOf(t, l)
-		step := 1 + len(b)/2000
-		for n := 0; n < len(b); n += step {
+		for n := range b {
 			mustNotTake(t, b[:n])
 		}
-		mustNotTake(t, b[:len(b)-1])
 	}
 }
 
