@@ -3,6 +3,7 @@ package query
 import (
 	"colonnade/api"
 	"colonnade/atom"
+	"colonnade/preds"
 	"colonnade/schema"
 	"colonnade/value"
 )
@@ -12,7 +13,7 @@ func CheckPred(cols []api.Column, p api.Pred) api.Errno {
 	if e := schema.Check(cols); e != api.OK {
 		return e
 	}
-	if !predMayBe(cols, p) {
+	if !preds.May(cols, p) {
 		return api.ErrQuery
 	}
 	return api.OK
@@ -27,48 +28,6 @@ func Truth(cols []api.Column, p api.Pred, row []api.Value) (api.Truth, api.Errno
 		return 0, api.ErrValue
 	}
 	return rowOf{cols, row}.truth(p), api.OK
-}
-
-func predMayBe(cols []api.Column, p api.Pred) bool {
-	l := look{cols: cols, left: api.MaxPreds}
-	return l.mayBe(p, api.MaxNest)
-}
-
-// A look goes through a predicate and gives up at the first fault, so that not even one that has itself among its kids is gone through for long.
-type look struct {
-	cols []api.Column
-	left int // how many predicates more there may be
-}
-
-// mayBe takes how deep a predicate may stand at most, itself included.
-func (l *look) mayBe(p api.Pred, deep int) bool {
-	if l.left == 0 || deep == 0 {
-		return false
-	}
-	l.left--
-	switch p.Kind {
-	case api.PredAll:
-		return kidsAlone(p) && len(p.Kids) == 0
-	case api.PredAnd, api.PredOr:
-		return kidsAlone(p) && len(p.Kids) >= 2 && l.allMayBe(p.Kids, deep-1)
-	case api.PredNot:
-		return kidsAlone(p) && len(p.Kids) == 1 && l.allMayBe(p.Kids, deep-1)
-	}
-	return atom.Check(l.cols, p) == api.OK
-}
-
-func (l *look) allMayBe(kids []api.Pred, deep int) bool {
-	for _, kid := range kids {
-		if !l.mayBe(kid, deep) {
-			return false
-		}
-	}
-	return true
-}
-
-// kidsAlone is whether all fields are zero but Kind and Kids. Layer 5 tells which Null may be: a zero with a sign is not seen by ==.
-func kidsAlone(p api.Pred) bool {
-	return p.Column == "" && p.Op == 0 && p.Value.Kind == api.Null && value.May(p.Value) && len(p.List) == 0
 }
 
 func isRow(cols []api.Column, row []api.Value) bool {
